@@ -1,0 +1,47 @@
+"""Numbers a and b w, told as [a, b]; w is the one above 0 whose square is m w and 1."""
+
+WRONG_INPUT = -22
+GREATEST_M = 4
+GREATEST_PART = 1000000
+
+
+def fits_m(m):
+    return 1 <= m and m <= GREATEST_M
+
+
+def fits_number(x):
+    if len(x) != 2:
+        return False
+    return abs(x[0]) <= GREATEST_PART and abs(x[1]) <= GREATEST_PART
+
+
+def signed_square(t):
+    return t * abs(t)
+
+
+def side(m, a, b):
+    """A whole number that is above 0, 0 or below 0 just as a and b w is; a and b may be of any size."""
+    # Twice w is m and the root of m m + 4, so twice the number is 2 a + m b and b times that root.
+    # A square that keeps its sign keeps the order too: both parts are squared so, and no root is taken.
+    return signed_square(2 * a + m * b) + (m * m + 4) * signed_square(b)
+
+
+def sign(m, x):
+    """[2] if x is above 0, [1] if it is 0, [0] if it is below; [-22] if m or x is not as told."""
+    if not fits_m(m) or not fits_number(x):
+        return [WRONG_INPUT]
+    found = side(m, x[0], x[1])
+    if found > 0:
+        return [2]
+    if found == 0:
+        return [1]
+    return [0]
+
+
+def before(m, x, y):
+    """[1] if x is less than y, else [0]; [-22] if m, x or y is not as told."""
+    if not fits_m(m) or not fits_number(x) or not fits_number(y):
+        return [WRONG_INPUT]
+    if side(m, y[0] - x[0], y[1] - x[1]) > 0:
+        return [1]
+    return [0]

@@ -1,0 +1,64 @@
+"""What the tests share: numbers to try, wrong inputs, and an order found in another way than the program's."""
+
+from fractions import Fraction
+
+ALL_M = (1, 2, 3, 4)
+GREATEST = 1000000
+
+WRONG_M = (0, 5, 6, 1000000, 4294967295)
+WRONG_LENGTHS = ([], [1], [1, 2, 3], [1, 2, 3, 4], [0], [0, 0, 0], [0, 0, 0, 0])
+TOO_GREAT = (-1000001, 1000001, -2147483647, 2147483647)
+WRONG_NUMBERS = (
+    WRONG_LENGTHS
+    + tuple([part, 1] for part in TOO_GREAT)
+    + tuple([1, part] for part in TOO_GREAT)
+    + tuple([part, part] for part in TOO_GREAT)
+    + tuple([part, -part] for part in TOO_GREAT)
+)
+
+
+def bounds_of_w(m):
+    """Two fractions, w between them: w is m and 1 / w, so each step lands on the other side, nearer."""
+    low = Fraction(m)
+    for _ in range(40):
+        high = m + 1 / low
+        low = m + 1 / high
+    return low, high
+
+
+BOUNDS = {m: bounds_of_w(m) for m in ALL_M}
+
+
+def true_sign(m, a, b):
+    """1, 0 or -1, as a and b w lies; by bounds alone, which must not leave it open."""
+    if a == 0 and b == 0:
+        return 0
+    ends = [a + b * bound for bound in BOUNDS[m]]
+    if min(ends) > 0:
+        return 1
+    if max(ends) < 0:
+        return -1
+    raise AssertionError(f"the bounds are too wide for {m}, {a}, {b}")
+
+
+def near_zero(m):
+    """Pairs (number, above): the powers of w's partner, which is below 0 and above -1, up to the range's end.
+
+    With p, q neighbours in 0, 1, m, m m + 1 .. the power is p less q w; even powers are above 0, odd ones below.
+    """
+    found = []
+    q, p, even = 0, 1, True
+    while p <= GREATEST:
+        found.append(([p, -q], even))
+        q, p, even = p, m * p + q, not even
+    return found
+
+
+class Guarded(list):
+    """A list that fails on any change, also one that would be taken back."""
+
+    def refuse(self, *args, **kwargs):
+        raise AssertionError("what was handed in was changed")
+
+    append = clear = extend = insert = pop = remove = reverse = sort = refuse
+    __setitem__ = __delitem__ = __iadd__ = __imul__ = refuse
