@@ -45,3 +45,19 @@ def before(m, x, y):
     if side(m, y[0] - x[0], y[1] - x[1]) > 0:
         return [1]
     return [0]
+
+
+def plus(x, y):
+    """[0, a, b], both added; [-22] if x or y is not as told."""
+    if not fits_number(x) or not fits_number(y):
+        return [WRONG_INPUT]
+    return [0, x[0] + y[0], x[1] + y[1]]
+
+
+def times(m, x, y):
+    """[0, a, b], both multiplied; [-22] if m, x or y is not as told."""
+    if not fits_m(m) or not fits_number(x) or not fits_number(y):
+        return [WRONG_INPUT]
+    # w by w is m w and 1, so what stands at w by w goes to both parts.
+    squares = x[1] * y[1]
+    return [0, x[0] * y[0] + squares, x[0] * y[1] + x[1] * y[0] + m * squares]

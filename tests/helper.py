@@ -16,6 +16,13 @@ WRONG_NUMBERS = (
     + tuple([part, -part] for part in TOO_GREAT)
 )
 
+# Each of x and y wrong by itself, and both.
+WRONG_PAIRS = (
+    tuple((x, [3, 4]) for x in WRONG_NUMBERS)
+    + tuple(([3, 4], y) for y in WRONG_NUMBERS)
+    + tuple((x, y) for x in WRONG_NUMBERS for y in WRONG_NUMBERS)
+)
+
 
 def bounds_of_w(m):
     """Two fractions, w between them: w is m and 1 / w, so each step lands on the other side, nearer."""
@@ -52,6 +59,17 @@ def near_zero(m):
         found.append(([p, -q], even))
         q, p, even = p, m * p + q, not even
     return found
+
+
+def table(m, x):
+    """What multiplying by x does to w and to 1, row by row; tables multiply and add as their numbers do."""
+    a, b = x
+    return ((a + m * b, b), (b, a))
+
+
+def tables_product(one, other):
+    columns = tuple(zip(*other))
+    return tuple(tuple(sum(p * q for p, q in zip(row, column)) for column in columns) for row in one)
 
 
 class Guarded(list):

@@ -2,7 +2,7 @@ import random
 import unittest
 
 from partnernumbers.numbers import before
-from tests.helper import ALL_M, GREATEST, WRONG_M, WRONG_NUMBERS, near_zero, true_sign
+from tests.helper import ALL_M, GREATEST, WRONG_M, WRONG_PAIRS, near_zero, true_sign
 
 
 class BeforeTest(unittest.TestCase):
@@ -111,21 +111,10 @@ class BeforeTest(unittest.TestCase):
             self.check_refused(m, [1, 2], [3, 4])
             self.check_refused(m, [0, 0], [0, 0])
 
-    def test_wrong_x(self):
-        for m in ALL_M:
-            for x in WRONG_NUMBERS:
-                self.check_refused(m, x, [3, 4])
-
-    def test_wrong_y(self):
-        for m in ALL_M:
-            for y in WRONG_NUMBERS:
-                self.check_refused(m, [3, 4], y)
-
     def test_wrong_x_and_y(self):
         for m in ALL_M + WRONG_M:
-            for x in WRONG_NUMBERS:
-                for y in WRONG_NUMBERS:
-                    self.check_refused(m, x, y)
+            for x, y in WRONG_PAIRS:
+                self.check_refused(m, x, y)
 
 
 if __name__ == "__main__":

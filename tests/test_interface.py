@@ -2,6 +2,7 @@ import ast
 import contextlib
 import inspect
 import io
+import itertools
 import pathlib
 import unittest
 
@@ -13,53 +14,83 @@ GOOD_NUMBERS = ([0, 0], [5, 0], [-3, 2], [3, -2], [-1000000, 1000000], [832040, 
 SOURCES = sorted(pathlib.Path(partnernumbers.__file__).parent.glob("*.py"))
 
 
+# Of each function: its arguments' names, and how many numbers it answers where it refuses nothing.
+FUNCTIONS = {
+    numbers.sign: (["m", "x"], 1),
+    numbers.before: (["m", "x", "y"], 1),
+    numbers.plus: (["x", "y"], 3),
+    numbers.times: (["m", "x", "y"], 3),
+}
+
+
+def values_of(name):
+    if name == "m":
+        return ALL_M + WRONG_M
+    if name == "x":
+        return GOOD_NUMBERS + WRONG_NUMBERS
+    return GOOD_NUMBERS + WRONG_NUMBERS[:3]
+
+
 def all_calls():
-    """Calls of every function, as (function, m, numbers), with right and wrong inputs mixed."""
+    """Calls of every function, as (function, arguments), with right and wrong inputs mixed."""
     calls = []
-    for m in ALL_M + WRONG_M:
-        for x in GOOD_NUMBERS + WRONG_NUMBERS:
-            calls.append((numbers.sign, m, [x]))
-            for y in GOOD_NUMBERS + WRONG_NUMBERS[:3]:
-                calls.append((numbers.before, m, [x, y]))
+    for function, (names, size) in FUNCTIONS.items():
+        for told in itertools.product(*[values_of(name) for name in names]):
+            calls.append((function, list(told)))
     return calls
+
+
+def guarded(value):
+    return Guarded(value) if isinstance(value, list) else value
 
 
 class InterfaceTest(unittest.TestCase):
     def test_the_names_of_the_arguments(self):
-        self.assertEqual(list(inspect.signature(numbers.sign).parameters), ["m", "x"])
-        self.assertEqual(list(inspect.signature(numbers.before).parameters), ["m", "x", "y"])
+        for function, (names, size) in FUNCTIONS.items():
+            self.assertEqual(list(inspect.signature(function).parameters), names)
 
-    def test_an_answer_is_a_list_of_one_whole_number(self):
-        for call, m, told in all_calls():
-            answer = call(m, *told)
+    def test_an_answer_is_a_list_of_whole_numbers(self):
+        for function, told in all_calls():
+            answer = function(*told)
             self.assertIs(type(answer), list)
-            self.assertEqual([type(part) for part in answer], [int], (call, m, told))
+            self.assertEqual({type(part) for part in answer}, {int}, (function, told))
+
+    def test_how_many_numbers_are_answered(self):
+        for function, told in all_calls():
+            answer = function(*told)
+            size = FUNCTIONS[function][1]
+            if answer[0] < 0:
+                self.assertEqual(answer, [-22], (function, told))
+            else:
+                self.assertEqual(len(answer), size, (function, told))
+            if size > 1:
+                self.assertLessEqual(answer[0], 0, (function, told))
 
     def test_what_is_handed_in_stays(self):
-        for call, m, told in all_calls():
-            guarded = [Guarded(x) for x in told]
-            answer = call(m, *guarded)
-            self.assertEqual([list(x) for x in guarded], told)
-            self.assertFalse(any(answer is x for x in guarded))
+        for function, told in all_calls():
+            handed = [guarded(value) for value in told]
+            answer = function(*handed)
+            self.assertEqual(handed, told)
+            self.assertFalse(any(answer is value for value in handed))
 
     def test_nothing_is_kept(self):
         calls = all_calls()
-        first = [call(m, *told) for call, m, told in calls]
-        again = [call(m, *told) for call, m, told in reversed(calls)]
+        first = [function(*told) for function, told in calls]
+        again = [function(*told) for function, told in reversed(calls)]
         self.assertEqual(first, again[::-1])
 
     def test_an_answer_that_is_changed_changes_no_other(self):
-        for call, m, told in all_calls():
-            answer = call(m, *told)
+        for function, told in all_calls():
+            answer = function(*told)
             kept = list(answer)
             answer.append(7)
-            self.assertEqual(call(m, *told), kept)
+            self.assertEqual(function(*told), kept)
 
     def test_nothing_is_printed(self):
         out, err = io.StringIO(), io.StringIO()
         with contextlib.redirect_stdout(out), contextlib.redirect_stderr(err):
-            for call, m, told in all_calls():
-                call(m, *told)
+            for function, told in all_calls():
+                function(*told)
         self.assertEqual((out.getvalue(), err.getvalue()), ("", ""))
 
     def test_nothing_is_imported_and_no_float_is_used(self):
