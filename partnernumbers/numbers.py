@@ -61,3 +61,18 @@ def times(m, x, y):
     # w by w is m w and 1, so what stands at w by w goes to both parts.
     squares = x[1] * y[1]
     return [0, x[0] * y[0] + squares, x[0] * y[1] + x[1] * y[0] + m * squares]
+
+
+def partner(m, x):
+    """[0, a, b], x with m less w in w's place; [-22] if m or x is not as told."""
+    if not fits_m(m) or not fits_number(x):
+        return [WRONG_INPUT]
+    return [0, x[0] + m * x[1], -x[1]]
+
+
+def norm(m, x):
+    """[0, n], n being x times its partner; [-22] if m or x is not as told."""
+    if not fits_m(m) or not fits_number(x):
+        return [WRONG_INPUT]
+    # w times its partner is -1, and w and its partner together are m.
+    return [0, x[0] * x[0] + m * x[0] * x[1] - x[1] * x[1]]

@@ -1,9 +1,10 @@
-"""What the tests share: numbers to try, wrong inputs, and an order found in another way than the program's."""
+"""What the tests share: numbers to try, wrong inputs, and other ways than the program's to order and multiply."""
 
 from fractions import Fraction
 
 ALL_M = (1, 2, 3, 4)
 GREATEST = 1000000
+ENDS = (-GREATEST, 1 - GREATEST, -1, 0, 1, GREATEST - 1, GREATEST)
 
 WRONG_M = (0, 5, 6, 1000000, 4294967295)
 WRONG_LENGTHS = ([], [1], [1, 2, 3], [1, 2, 3, 4], [0], [0, 0, 0], [0, 0, 0, 0])
@@ -16,6 +17,11 @@ WRONG_NUMBERS = (
     + tuple([part, -part] for part in TOO_GREAT)
 )
 
+# Each of m and x wrong by itself, and both.
+WRONG_M_OR_X = (
+    tuple((m, x) for m in WRONG_M for x in ([0, 0], [1, 0], [0, 1], [-1, 1], [3, -4]) + WRONG_NUMBERS)
+    + tuple((m, x) for m in ALL_M for x in WRONG_NUMBERS)
+)
 # Each of x and y wrong by itself, and both.
 WRONG_PAIRS = (
     tuple((x, [3, 4]) for x in WRONG_NUMBERS)

@@ -20,6 +20,8 @@ FUNCTIONS = {
     numbers.before: (["m", "x", "y"], 1),
     numbers.plus: (["x", "y"], 3),
     numbers.times: (["m", "x", "y"], 3),
+    numbers.partner: (["m", "x"], 3),
+    numbers.norm: (["m", "x"], 2),
 }
 
 

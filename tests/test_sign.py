@@ -2,7 +2,7 @@ import random
 import unittest
 
 from partnernumbers.numbers import sign
-from tests.helper import ALL_M, GREATEST, WRONG_M, WRONG_NUMBERS, near_zero, true_sign
+from tests.helper import ALL_M, ENDS, GREATEST, WRONG_M_OR_X, near_zero, true_sign
 
 
 class SignTest(unittest.TestCase):
@@ -68,8 +68,8 @@ class SignTest(unittest.TestCase):
 
     def test_the_ends_of_the_range(self):
         for m in ALL_M:
-            for a in (-GREATEST, 1 - GREATEST, -1, 0, 1, GREATEST - 1, GREATEST):
-                for b in (-GREATEST, 1 - GREATEST, -1, 0, 1, GREATEST - 1, GREATEST):
+            for a in ENDS:
+                for b in ENDS:
                     self.check(m, [a, b], true_sign(m, a, b) + 1)
 
     def test_many_numbers(self):
@@ -79,20 +79,10 @@ class SignTest(unittest.TestCase):
                 a, b = source.randint(-GREATEST, GREATEST), source.randint(-GREATEST, GREATEST)
                 self.assertEqual(sign(m, [a, b]), [true_sign(m, a, b) + 1], (m, a, b))
 
-    def test_wrong_m(self):
-        for m in WRONG_M:
-            for x in ([0, 0], [1, 1], [-1, 1]):
-                self.check(m, x, -22)
-
-    def test_wrong_x(self):
-        for m in ALL_M:
-            for x in WRONG_NUMBERS:
-                self.check(m, x, -22)
-
     def test_wrong_m_and_x(self):
-        for m in WRONG_M:
-            for x in WRONG_NUMBERS:
-                self.check(m, x, -22)
+        for m, x in WRONG_M_OR_X:
+            with self.subTest(m=m, x=x):
+                self.assertEqual(sign(m, x), [-22])
 
 
 if __name__ == "__main__":

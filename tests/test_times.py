@@ -2,9 +2,7 @@ import random
 import unittest
 
 from partnernumbers.numbers import before, plus, sign, times
-from tests.helper import ALL_M, GREATEST, WRONG_M, WRONG_PAIRS, near_zero, table, tables_product
-
-ENDS = (-GREATEST, 1 - GREATEST, -1, 0, 1, GREATEST - 1, GREATEST)
+from tests.helper import ALL_M, ENDS, GREATEST, WRONG_M, WRONG_PAIRS, near_zero, table, tables_product
 
 
 class TimesTest(unittest.TestCase):
