@@ -1,5 +1,6 @@
 """What the tests share: numbers to try, wrong inputs, and other ways than the program's to order and multiply."""
 
+import math
 from fractions import Fraction
 
 ALL_M = (1, 2, 3, 4)
@@ -7,6 +8,8 @@ GREATEST = 1000000
 ENDS = (-GREATEST, 1 - GREATEST, -1, 0, 1, GREATEST - 1, GREATEST)
 
 WRONG_M = (0, 5, 6, 1000000, 4294967295)
+WRONG_S = (2, 3, 1000000, 4294967295)
+WRONG_K = (61, 62, 1000000, 4294967295)
 WRONG_LENGTHS = ([], [1], [1, 2, 3], [1, 2, 3, 4], [0], [0, 0, 0], [0, 0, 0, 0])
 TOO_GREAT = (-1000001, 1000001, -2147483647, 2147483647)
 WRONG_NUMBERS = (
@@ -52,6 +55,14 @@ def true_sign(m, a, b):
     if max(ends) < 0:
         return -1
     raise AssertionError(f"the bounds are too wide for {m}, {a}, {b}")
+
+
+def true_floor(m, a, b):
+    """The greatest whole number that isn't above a and b w; by bounds alone, which must not leave it open."""
+    low, high = [math.floor(a + b * bound) for bound in BOUNDS[m]]
+    if low != high:
+        raise AssertionError(f"the bounds are too wide for {m}, {a}, {b}")
+    return low
 
 
 def near_zero(m):

@@ -8,7 +8,7 @@ import unittest
 
 import partnernumbers
 from partnernumbers import numbers
-from tests.helper import ALL_M, WRONG_M, WRONG_NUMBERS, Guarded
+from tests.helper import ALL_M, WRONG_K, WRONG_M, WRONG_NUMBERS, WRONG_S, Guarded
 
 GOOD_NUMBERS = ([0, 0], [5, 0], [-3, 2], [3, -2], [-1000000, 1000000], [832040, -514229])
 SOURCES = sorted(pathlib.Path(partnernumbers.__file__).parent.glob("*.py"))
@@ -22,6 +22,8 @@ FUNCTIONS = {
     numbers.times: (["m", "x", "y"], 3),
     numbers.partner: (["m", "x"], 3),
     numbers.norm: (["m", "x"], 2),
+    numbers.floor: (["m", "x"], 2),
+    numbers.unit: (["m", "s", "k"], 3),
 }
 
 
@@ -30,6 +32,10 @@ def values_of(name):
         return ALL_M + WRONG_M
     if name == "x":
         return GOOD_NUMBERS + WRONG_NUMBERS
+    if name == "s":
+        return (0, 1) + WRONG_S
+    if name == "k":
+        return (0, 1, 2, 33, 60) + WRONG_K
     return GOOD_NUMBERS + WRONG_NUMBERS[:3]
 
 
