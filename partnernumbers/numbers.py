@@ -1,6 +1,7 @@
 """Numbers a and b w, told as [a, b]; w is the one above 0 whose square is m w and 1."""
 
 WRONG_INPUT = -22
+NO_SUCH_NUMBER = -33
 GREATEST_M = 4
 GREATEST_PART = 1000000
 GREATEST_POWER = 60
@@ -112,3 +113,18 @@ def unit(m, s, k):
     for turn in range(k):
         power = product(m, power, step)
     return [0] + power
+
+
+def divide(m, x, y):
+    """[0, a, b], the number that times y is x; [-22] if m, x or y is not as told, [-33] if there is none."""
+    if not fits_m(m) or not fits_number(x) or not fits_number(y):
+        return [WRONG_INPUT]
+    # x by y is x times y's partner, by the norm of y: a whole number, so both parts are divided by it alone.
+    whole = norm(m, y)[1]
+    # m m + 4 is no square for m from 1 to 4, so 0 alone has the norm 0.
+    if whole == 0:
+        return [NO_SUCH_NUMBER]
+    parts = product(m, x, partner(m, y)[1:])
+    if parts[0] % whole != 0 or parts[1] % whole != 0:
+        return [NO_SUCH_NUMBER]
+    return [0, parts[0] // whole, parts[1] // whole]
